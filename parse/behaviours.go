@@ -227,9 +227,9 @@ func (p *parser) pick() api.Node {
 	name := p.name().S
 	p.want("in")
 	p.want("[")
-	gates := p.names()
+	gates := p.list(p.names()...)
 	p.want("]")
-	return p.named(api.NdGate, from, name, gates...)
+	return p.named(api.NdGate, from, name, gates)
 }
 
 func (p *parser) stop() api.Node {

@@ -319,9 +319,9 @@ func (m *maker) bind() api.Node {
 func (m *maker) pick() api.Node {
 	at, s := m.at(), m.word()
 	m.put(s, "in", "[")
-	l := m.names()
+	gates := m.list(m.names()...)
 	m.put("]")
-	return m.from(at, named(api.NdGate, s, l...))
+	return m.from(at, named(api.NdGate, s, gates))
 }
 
 // single makes a behaviour that needs no brackets, unless something follows that an open one would take.

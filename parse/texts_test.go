@@ -31,7 +31,7 @@ func TestBehaviours(t *testing.T) {
 		{"a; P >> Q", node(api.NdEnable, none, pre("a", call("P")), call("Q"))}, {"a; (P >> Q)", pre("a", node(api.NdEnable, none, call("P"), call("Q")))}, {"(P [] Q) [] R", choice(choice(call("P"), call("Q")), call("R"))}, {"((P))", call("P")}, {"(a; P)", pre("a", call("P"))},
 		{"P [] hide a in Q [] R >> P", choice(call("P"), node(api.NdHide, names("a"), node(api.NdEnable, none, choice(call("Q"), call("R")), call("P"))))}, {"(hide a, b in P) || Q", par("||", none, node(api.NdHide, names("a b"), call("P")), call("Q"))}, {"[x = y] -> a; hide a in P [] Q", node(api.NdGuard, cond, pre("a", node(api.NdHide, names("a"), choice(call("P"), call("Q")))))},
 		{"let x : s = y, y : t = x of t in P [] Q", node(api.NdLet, list(named(api.NdBind, "x", name("s"), app("y")), named(api.NdBind, "y", name("t"), of("t", app("x")))), choice(call("P"), call("Q")))},
-		{"choice x, y : s, z : t [] P [] Q", node(api.NdSome, list(append(decls("x y", "s").L, decls("z", "t").L...)...), choice(call("P"), call("Q")))}, {"choice g in [a, b], h in [c] [] g; P", node(api.NdPick, list(named(api.NdGate, "g", names("a b").L...), named(api.NdGate, "h", name("c"))), pre("g", call("P")))}, {"choice left : right [] left", node(api.NdSome, decls("left", "right"), call("left"))},
+		{"choice x, y : s, z : t [] P [] Q", node(api.NdSome, list(append(decls("x y", "s").L, decls("z", "t").L...)...), choice(call("P"), call("Q")))}, {"choice g in [a, b], h in [c] [] g; P", node(api.NdPick, list(named(api.NdGate, "g", names("a b")), named(api.NdGate, "h", names("c"))), pre("g", call("P")))}, {"choice left : right [] left", node(api.NdSome, decls("left", "right"), call("left"))},
 	} {
 		n, at, err := parse.Behaviour(x.text, table())
 		if err != api.OK || at != 0 || !parse.Same(n, x.want) || n.At != 0 || n.End != len(x.text) {
@@ -55,7 +55,8 @@ func TestPlaces(t *testing.T) {
 		{"P (x)", "32'P'@0-5(8@2-2 8@3-4(50'x'@3-4))"},
 		{"exit(any s,x)", "21@0-13(42@5-10(7's'@9-10) 40@11-12(50'x'@11-12))"},
 		{"hide a,b in(stop)", "25@0-17(8@5-8(7'a'@5-6 7'b'@7-8) 20@11-17)"},
-		{"choice g in[a] []stop", "31@0-21(8@7-14(45'g'@7-14(7'a'@12-13)) 20@17-21)"},
+		{"choice g in[a] []stop", "31@0-21(8@7-14(45'g'@7-14(8@12-13(7'a'@12-13))) 20@17-21)"},
+		{"choice g in [a, b], h in [c] [] P", "31@0-33(8@7-28(45'g'@7-18(8@13-17(7'a'@13-14 7'b'@16-17)) 45'h'@20-28(8@26-27(7'c'@26-27))) 32'P'@32-33(8@33-33 8@33-33))"},
 		{"let x:s=1 in wait 2;stop", "29@0-24(8@4-9(44'x'@4-9(7's'@6-7 50'1'@8-9)) 33#2@13-24(20@20-24))"},
 		{"[x=y]->stop[]stop", "23@0-17(28@0-11(8@1-4(14@1-4(50'x'@1-2 50'y'@3-4)) 20@7-11) 20@13-17)"},
 	} {

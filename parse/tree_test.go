@@ -92,7 +92,7 @@ func TestCheckOfChangedTrees(t *testing.T) {
 		refuse(way, "a long name", func(x *api.Node) { x.S += strings.Repeat("a", 33) })
 		refuse(way, "a list too many", func(x *api.Node) { x.L = append(slices.Clone(x.L), list(list())) })
 		refuse(way, "a node too many", func(x *api.Node) { x.L = append(slices.Clone(x.L), node(99)) })
-		if len(at.L) > 0 && at.Kind != api.NdList && at.Kind != api.NdFunc && at.Kind != api.NdExit && at.Kind != api.NdLib && at.Kind != api.NdGate && !(at.Kind == api.NdApp && (at.S == "add" || at.S == "g")) {
+		if len(at.L) > 0 && at.Kind != api.NdList && at.Kind != api.NdFunc && at.Kind != api.NdExit && at.Kind != api.NdLib && !(at.Kind == api.NdApp && (at.S == "add" || at.S == "g")) {
 			refuse(way, "a node too few", func(x *api.Node) { x.L = x.L[1:] })
 			refuse(way, "no nodes", func(x *api.Node) { x.L = nil })
 		}
@@ -105,7 +105,7 @@ func alike(kind int, n api.Node) bool {
 	return both(api.NdChoice, api.NdDisable) || len(n.L) == 0 && both(api.NdStop, api.NdExit) || len(n.L) == 1 && both(api.NdApp, api.NdOf)
 }
 
-// P2.10: trees that are not read from a text.
+// P2.2, P2.10: trees that are not read from a text.
 func TestCheckOfTrees(t *testing.T) {
 	plain := func(i int, l api.Node) api.Node {
 		n := wrap(nil, app("a"))
@@ -125,6 +125,7 @@ func TestCheckOfTrees(t *testing.T) {
 	action := func(gate string, offers, conds, windows api.Node) api.Node {
 		return where(node(api.NdPre, name(gate), offers, conds, windows, stop()))
 	}
+	pick := func(l ...api.Node) api.Node { return where(node(api.NdPick, list(l...), stop())) }
 	give := list(node(api.NdGive, app("a")))
 	cond := list(eq(app("a"), app("b")))
 	win := func(n int, l ...string) api.Node {
@@ -148,7 +149,8 @@ func TestCheckOfTrees(t *testing.T) {
 		{action("a", list(), list(), list(win(1, "3").L[0], win(1, "3").L[0])), false},
 		{where(numbered(api.NdWait, 0, stop())), true}, {where(numbered(api.NdWait, 2147483647, stop())), true}, {where(numbered(api.NdWait, 2147483648, stop())), false}, {where(numbered(api.NdWait, -1, stop())), false},
 		{where(named(api.NdPar, "||", list(), stop(), stop())), true}, {where(named(api.NdPar, "||", names("a"), stop(), stop())), false}, {where(named(api.NdPar, "|[", list(), stop(), stop())), false}, {where(named(api.NdPar, "|[", names("a"), stop(), stop())), true}, {where(named(api.NdPar, "[]", list(), stop(), stop())), false}, {where(named(api.NdPar, "", list(), stop(), stop())), false}, {where(named(api.NdPar, "]|", list(), stop(), stop())), false},
-		{where(node(api.NdHide, names("a"), stop())), true}, {where(node(api.NdHide, list(), stop())), false}, {where(node(api.NdGuard, list(), stop())), false}, {where(node(api.NdGuard, cond, stop())), true}, {where(node(api.NdLet, list(), stop())), false}, {where(node(api.NdSome, list(), stop())), false}, {where(node(api.NdPick, list(), stop())), false}, {where(node(api.NdSome, decls("a", "s"), stop())), true}, {where(node(api.NdPick, list(named(api.NdGate, "a")), stop())), false}, {where(node(api.NdPick, list(named(api.NdGate, "a", name("b"))), stop())), true},
+		{where(node(api.NdHide, names("a"), stop())), true}, {where(node(api.NdHide, list(), stop())), false}, {where(node(api.NdGuard, list(), stop())), false}, {where(node(api.NdGuard, cond, stop())), true}, {where(node(api.NdLet, list(), stop())), false}, {where(node(api.NdSome, list(), stop())), false}, {where(node(api.NdSome, decls("a", "s"), stop())), true},
+		{pick(), false}, {pick(named(api.NdGate, "a", names("b"))), true}, {pick(named(api.NdGate, "a", names("b c")), named(api.NdGate, "d", names("e"))), true}, {pick(named(api.NdGate, "a")), false}, {pick(named(api.NdGate, "a", list())), false}, {pick(named(api.NdGate, "a", name("b"))), false}, {pick(named(api.NdGate, "a", name("b"), name("c"))), false}, {pick(named(api.NdGate, "a", names("b"), name("c"))), false}, {pick(named(api.NdGate, "a", names("b"), names("c"))), false}, {pick(named(api.NdGate, "a", list(names("b")))), false},
 		{where(node(api.NdExit)), true}, {where(node(api.NdExit, app("a"))), false}, {where(node(api.NdExit, node(api.NdAny, name("a")))), true}, {where(node(api.NdExit, node(api.NdAny))), false}, {where(node(api.NdExit, node(api.NdGive))), false},
 		{named(api.NdSpec, "x", list(), list(), numbered(api.NdFunc, 1), list(), stop(), list()), true}, {named(api.NdSpec, "x", list(), list(), numbered(api.NdFunc, 2), list(), stop(), list()), false}, {named(api.NdSpec, "x", list(), list(), node(api.NdFunc, name("a")), list(), stop(), list()), false}, {named(api.NdSpec, "x", list(), list(), node(api.NdFunc), list(named(api.NdProc, "p", list(), list(), node(api.NdFunc), stop(), list())), stop(), list()), false},
 		{named(api.NdSpec, "endspec", list(), list(), node(api.NdFunc), list(), stop(), list()), false}, {where(stop(), named(api.NdProc, "p", list(), list(), node(api.NdFunc), stop(), list())), true}, {named(api.NdSpec, "x", list(), list(), node(api.NdFunc), list(named(api.NdLib, "")), stop(), list()), false},
@@ -161,6 +163,9 @@ func TestCheckOfTrees(t *testing.T) {
 		}
 		if err := parse.Check(x.n); err != want {
 			t.Errorf("%d: Check(%s): error %d", i, form(x.n), err)
+		}
+		if _, err := parse.Ops(x.n); err != want {
+			t.Errorf("%d: Ops(%s): error %d", i, form(x.n), err)
 		}
 	}
 }
@@ -397,14 +402,17 @@ func TestAround(t *testing.T) {
 			t.Errorf("Around %d: %v, %v", x.at, way, is)
 		}
 	}
-	text := "choice x, y : nat [] stop"
-	b, _, _ := parse.Behaviour(text, nil)
 	for _, x := range []struct {
-		at  int
-		way []int
-	}{{0, nil}, {7, []int{0, 0}}, {8, []int{0}}, {10, []int{0, 1}}, {14, nil}, {18, nil}, {21, []int{1}}} {
+		text string
+		at   int
+		way  []int
+	}{
+		{"choice x, y : nat [] stop", 0, nil}, {"choice x, y : nat [] stop", 7, []int{0, 0}}, {"choice x, y : nat [] stop", 8, []int{0}}, {"choice x, y : nat [] stop", 10, []int{0, 1}}, {"choice x, y : nat [] stop", 14, nil}, {"choice x, y : nat [] stop", 18, nil}, {"choice x, y : nat [] stop", 21, []int{1}},
+		{"choice g in [a, b] [] stop", 7, []int{0, 0}}, {"choice g in [a, b] [] stop", 12, []int{0, 0}}, {"choice g in [a, b] [] stop", 13, []int{0, 0, 0, 0}}, {"choice g in [a, b] [] stop", 14, []int{0, 0, 0}}, {"choice g in [a, b] [] stop", 16, []int{0, 0, 0, 1}}, {"choice g in [a, b] [] stop", 17, []int{0, 0}},
+	} {
+		b, _, _ := parse.Behaviour(x.text, nil)
 		if way, is := parse.Around(b, x.at); !is || !slices.Equal(way, x.way) {
-			t.Errorf("Around %d of %q: %v, %v", x.at, text, way, is)
+			t.Errorf("Around %d of %q: %v, %v", x.at, x.text, way, is)
 		}
 	}
 }

@@ -188,6 +188,6 @@ func (w *writer) choiceOver(n api.Node, last bool) {
 func (w *writer) pick(n api.Node) {
 	w.name(n.S)
 	w.put("in", "[")
-	w.names(n.L)
+	w.names(part(n, 0).L)
 	w.put("]")
 }
