@@ -17,18 +17,17 @@ func (x *signature) specTree(s api.Spec) (api.Node, api.Errno) {
 	if !areGates(s.Gates) {
 		return api.Node{}, api.ErrNames
 	}
-	for _, p := range s.Procs {
-		if !isName(p.Name) {
-			return api.Node{}, api.ErrNames
-		}
-	}
 	return x.grown(api.ErrSpec, func(m *terms) api.Node {
 		g := &specs{newTrees(m, s.Procs), s}
 		return g.specification()
 	})
 }
 
+// specification looks at the names of processes first: a process that has none is refused however large the tree would be.
 func (g *specs) specification() api.Node {
+	for _, p := range g.Procs {
+		g.nameOf(p)
+	}
 	gates := g.gateList(g.Gates)
 	data := list(g.data())
 	main := g.behaviour(g.Main, g.scope(g.Gates, nil))

@@ -139,12 +139,12 @@ func TestWrongSpecs(t *testing.T) {
 	for what, change := range map[string]func(s *api.Spec){
 		"a gate twice":           func(s *api.Spec) { s.Gates = []string{"a", "a"} },
 		"a gate that is no name": func(s *api.Spec) { s.Gates[0] = "i" },
-		"a process":              func(s *api.Spec) { s.Procs[2].Name = "Q#1" },
-		"a process without name": func(s *api.Spec) { s.Procs[0].Name = "" },
 	} {
 		s := fullSpec()
 		change(&s)
 		check(what, s, api.ErrNames)
+		s.Procs[0].Name = ""
+		check(what+" ahead of a process without name", s, api.ErrNames)
 		s.Main = api.Beh{}
 		check(what+" ahead of what is wrong", s, api.ErrNames)
 	}
@@ -152,6 +152,43 @@ func TestWrongSpecs(t *testing.T) {
 	s.Procs[1].Func.Sorts = []int{99}
 	if w, err := show.Spec(s); err != api.OK || !strings.Contains(w, "process Q:noexit:=stop") {
 		t.Errorf("sorts without an end: %q, error %d", w, err)
+	}
+}
+
+// P3.4: a process whose name is none cannot be written, whether it is called or not.
+func TestProcessesWithoutNames(t *testing.T) {
+	check := func(what string, s api.Spec, want api.Errno) {
+		t.Helper()
+		n, err := show.SpecTree(s)
+		if err != want || (n.Kind == api.NdSpec) != (want == api.OK) || want != api.OK && !parse.Same(n, api.Node{}) {
+			t.Errorf("%s: SpecTree: %s, error %d; want %d", what, written(n), err, want)
+		}
+		w, err := show.Spec(s)
+		if err != want || (w == "") != (want != api.OK) {
+			t.Errorf("%s: Spec: %q, error %d; want %d", what, w, err, want)
+		}
+	}
+	for _, name := range noNames() {
+		called := fullSpec()
+		for i := range called.Procs {
+			s := fullSpec()
+			s.Procs[i].Name = name
+			check(strconv.Quote(name)+" of the process "+strconv.Itoa(i), s, api.ErrSpec)
+			s.Main = beh(api.BStop)
+			check(strconv.Quote(name)+" of the process "+strconv.Itoa(i)+", not called", s, api.ErrSpec)
+			called.Procs[i].Name = name
+		}
+		check(strconv.Quote(name)+" of all", called, api.ErrSpec)
+		called.Type.Sig.Sorts = []string{"nat", name}
+		check(strconv.Quote(name)+" of a sort, too", called, api.ErrNames)
+		large := fullSpec()
+		large.Procs[1].Gates, large.Procs[2].Name = api.MaxTree, name
+		check(strconv.Quote(name)+" behind a process that is too large", large, api.ErrSpec)
+	}
+	for _, name := range []string{"P", "data", "spec", "a", "s", "nat", "v0", "g0'", strings.Repeat("P", 32)} {
+		s := fullSpec()
+		s.Procs[0].Name, s.Procs[1].Name = name, name
+		check(name, s, api.OK)
 	}
 }
 

@@ -226,11 +226,16 @@ func (g *trees) some(b api.Beh, s scope) api.Node {
 	return node(api.NdSome, list(vars...), g.behaviour(b.L[0], inner))
 }
 
-func (g *trees) call(b api.Beh, s scope) api.Node {
-	process := element(g.terms, g.procs, b.N).Name
-	if !isName(process) {
-		panic(failure{api.ErrNames})
+// nameOf returns the name of a process. One that is not read as a name cannot be written.
+func (g *trees) nameOf(p api.Proc) string {
+	if !isName(p.Name) {
+		g.refuse()
 	}
+	return p.Name
+}
+
+func (g *trees) call(b api.Beh, s scope) api.Node {
+	process := g.nameOf(element(g.terms, g.procs, b.N))
 	gates := g.gatesOf(b.Gates, s)
 	values := list(nodes(b.T, func(t api.Term) api.Node { return g.term(t, s.vars) })...)
 	return named(api.NdCall, process, gates, values)

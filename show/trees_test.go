@@ -189,14 +189,36 @@ func TestWrongBehTrees(t *testing.T) {
 	if n, err := show.BehTree(s, many[:32], nil, hides(32, prefix(63, beh(api.BStop)))); err != api.OK || len(n.L[0].L) != 32 || n.L[1].L[0].S != "h63" {
 		t.Errorf("64 gates: %s, error %d", written(n), err)
 	}
-	// Names of processes count where they are written.
-	s = smallSpec()
-	s.Procs[0].Name = "not a name"
-	if n, err := show.BehTree(s, gates, nil, prefix(0, calls(0, nil))); err != api.ErrNames || !parse.Same(n, api.Node{}) {
-		t.Errorf("a call that has no name: %s, error %d", written(n), err)
-	}
-	if _, err := show.BehTree(s, gates, nil, calls(1, nil)); err != api.OK {
-		t.Errorf("another call: error %d", err)
+}
+
+// noNames returns what cannot be the name of a process.
+func noNames() []string {
+	return []string{"", " ", "0", "1", "12", "stop", "exit", "i", "in", "any", "endproc", "not a name", " P", "P ", "P\n", "1P", "P#1", "+", "[]", "(*P*)", "\xff", strings.Repeat("P", 33)}
+}
+
+// P3.4: a call of a process whose name is none cannot be written; that of another process can.
+func TestCallsWithoutNames(t *testing.T) {
+	gates, vars := []string{"a"}, []string{"x"}
+	for _, name := range noNames() {
+		s := smallSpec()
+		s.Procs[0].Name = name
+		c := calls(0, []int{0}, v(0))
+		for _, b := range []api.Beh{c, prefix(0, c), beh(api.BChoice, beh(api.BStop), c), hides(1, binding(api.BSome, []int{0}, c)), beh(api.BEnable, calls(1, nil), c)} {
+			if n, err := show.BehTree(s, gates, vars, b); err != api.ErrBeh || !parse.Same(n, api.Node{}) {
+				t.Errorf("BehTree of %v with a process %q: %s, error %d", b, name, written(n), err)
+			}
+		}
+		for _, b := range []api.Beh{beh(api.BStop), calls(1, nil), prefix(0, calls(1, []int{0}, v(0)))} {
+			if n, err := show.BehTree(s, gates, vars, b); err != api.OK || n.Kind == 0 {
+				t.Errorf("BehTree of %v ahead of a process %q: %s, error %d", b, name, written(n), err)
+			}
+		}
+		// Names of gates and variables come first.
+		for _, x := range []struct{ gates, vars []string }{{[]string{name}, vars}, {gates, []string{name}}, {[]string{"a", "a"}, vars}} {
+			if n, err := show.BehTree(s, x.gates, x.vars, c); err != api.ErrNames || !parse.Same(n, api.Node{}) {
+				t.Errorf("BehTree with %q and %q: %s, error %d", x.gates, x.vars, written(n), err)
+			}
+		}
 	}
 }
 
