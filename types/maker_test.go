@@ -134,7 +134,7 @@ func (g maker) ops(there []api.Op, sorts, most int) []api.Op {
 
 // data returns a type.
 func (g maker) data() api.Type {
-	for {
+	for range 1000 {
 		s := api.Sig{Sorts: g.fresh(nil, 5)}
 		s.Ops = g.ops(nil, len(s.Sorts), 6)
 		t := api.Type{Sig: s}
@@ -143,6 +143,7 @@ func (g maker) data() api.Type {
 			return t
 		}
 	}
+	panic("no type comes about")
 }
 
 // uses returns some modules, each once.
@@ -262,13 +263,16 @@ func (g maker) module(l []api.Module, name string) api.Module {
 // modules returns a list of so many modules.
 func (g maker) modules(many int) []api.Module {
 	var l []api.Module
-	for len(l) < many {
+	for range 1000 {
 		m := g.module(l, moduleName(len(l)))
 		if types.CheckModules(append(slices.Clip(l), m)) == api.OK {
 			l = append(l, m)
 		}
+		if len(l) == many {
+			return l
+		}
 	}
-	return l
+	panic("no modules come about")
 }
 
 // moduleName is a name for a number.
