@@ -130,9 +130,9 @@ func TestImage(t *testing.T) {
 		}
 	}
 	bad := append(noTerms(), v(64), succ(v(64)), succ(v(4000)), plus(v(0), op(2, v(1), v(64))), op(5, is(v(0), v(0)), v(0)), op(5, v(1), is(zero(), v(1))), is(v(0), succ(is(v(0), v(0)))))
-	for _, x := range bad {
+	for i, x := range bad { // some are far too great to be told
 		if got, err := types.Image(from, to, m, x); err != api.ErrTerm || !same(got, api.Term{}) {
-			t.Errorf("Image(%.200v): %v, error %d", x, got, err)
+			t.Errorf("Image of what is no term, %d: error %d", i, err)
 		}
 	}
 	e := eq([]int{1, 0, 1}, op(5, v(2), is(v(1), zero())), v(2), v(1), zero(), yes(), v(2))
