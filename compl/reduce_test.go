@@ -61,10 +61,10 @@ func TestBounds(t *testing.T) {
 		if _, is, err := compl.Join(w, f(b()), f(b()), c.most); err != c.err || is != (err == api.OK) {
 			t.Errorf("Join with %d: %v, error %d; want %d", c.most, is, err, c.err)
 		}
-		if _, _, err := compl.Confluent(w, c.most); err != c.err && (c.most != 0 && c.most != 1) {
-			t.Errorf("Confluent with %d: error %d; want %d", c.most, err, c.err)
+		if joins, k, err := compl.Confluent(w, c.most); err != c.err || (k == -1) != (err == api.OK) || err != api.OK && (k != 0 || len(joins) > 0) {
+			t.Errorf("Confluent with %d: %d, error %d; want %d", c.most, k, err, c.err)
 		}
-		if _, k, err := compl.Confluent(data(abf()), c.most); (err == api.ErrArg) != (c.err == api.ErrArg) || err == api.OK && k != -1 {
+		if _, k, err := compl.Confluent(data(abf()), c.most); (err == api.ErrArg) != (c.err == api.ErrArg) || err == api.OK && k != -1 || err != api.OK && k != 0 {
 			t.Errorf("Confluent without equations, with %d: %d, error %d", c.most, k, err)
 		}
 	}
